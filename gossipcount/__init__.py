@@ -1,0 +1,1 @@
+"""Gossipcount: a count that many keep together."""

@@ -10,6 +10,8 @@ import gossipcount
 FOLDER = os.path.dirname(os.path.abspath(gossipcount.__file__))
 CLASSES = {
     "errors": ("GossipError", "NoName", "NoAmount", "NoPage", "Forged", "NoNote"),
+    "hands": ("Hand",),
+    "room": ("Room",),
 }
 FUNCTIONS = {
     "shares": {"greater": ["one", "other"], "reaches": ["one", "other"], "net": ["share"]},
@@ -17,6 +19,17 @@ FUNCTIONS = {
     "pages": {
         "is_page": ["thing"], "share_of": ["page", "name"], "joined": ["one", "other"],
         "knows": ["one", "other"], "lacking": ["one", "other"], "total": ["page"],
+    },
+    "calls": {"calls": ["names"]},
+    "notes": {"written": ["page"], "read": ["text"]},
+}
+METHODS = {
+    ("hands", "Hand"): {
+        "__init__": ["self", "name"], "up": ["self", "many"], "down": ["self", "many"], "page": ["self"], "told": ["self"],
+        "letter": ["self", "page"], "trusts": ["self", "page"], "hear": ["self", "page"],
+    },
+    ("room", "Room"): {
+        "__init__": ["self", "names"], "hand": ["self", "name"], "meet": ["self", "one", "other"], "settled": ["self"],
     },
 }
 
@@ -39,6 +52,15 @@ class TheInterface(unittest.TestCase):
                     self.assertTrue(inspect.isfunction(function))
                     self.assertEqual(function.__module__, "gossipcount." + file)
                     self.assertEqual(list(inspect.signature(function).parameters), arguments)
+
+    def test_each_method_is_defined_in_its_class_with_its_arguments(self):
+        for (file, holder), methods in METHODS.items():
+            module = importlib.import_module("gossipcount." + file)
+            for name, arguments in methods.items():
+                with self.subTest(holder=holder, name=name):
+                    method = vars(getattr(module, holder))[name]
+                    self.assertTrue(inspect.isfunction(method))
+                    self.assertEqual(list(inspect.signature(method).parameters), arguments)
 
     def test_the_folder_holds_python_files_alone(self):
         found = [file for file in os.listdir(FOLDER) if file != "__pycache__"]

@@ -7,9 +7,7 @@ from itertools import permutations, product
 
 from gossipcount.pages import is_page, joined, knows, lacking, share_of, total
 from gossipcount.shares import greater, reaches
-
-MOST = 10 ** 60 - 1
-LETTERS = "abcdefghijklmnopqrstuvwxyz"
+from tests.samples import MOST, page_of
 
 # Without names; alike; with all, some and no names shared; names that differ by one sign; names not rising.
 PAGES = (
@@ -25,11 +23,6 @@ PAGES = (
     {"annb": (5, 2), "ann": (1, 9), "anna": (6, 1)},
     {"z": (MOST, MOST), "anna": (MOST, 0), "a": (0, MOST)},
 )
-
-
-def page_of(many):
-    """A page of so many names."""
-    return {LETTERS[at // 26] + LETTERS[at % 26]: (at + 1, at) for at in range(many)}
 
 
 def plainly_joined(one, other):
